@@ -130,22 +130,30 @@ func wrongChains() map[string][]impl.Item {
 	}
 }
 
-// guarded is the list with room behind its end, and all of that memory, to see whether it is written into.
-func guarded(c []impl.Item) ([]impl.Item, []impl.Item) {
-	all := make([]impl.Item, 0, len(c)+8)
-	all = append(all, c...)
+// guard is the list with room behind its end, and all of that memory, to see whether it is written into.
+func guard[T any](list []T, fill T) ([]T, []T) {
+	all := make([]T, 0, len(list)+8)
+	all = append(all, list...)
 	for len(all) < cap(all) {
-		all = append(all, item(77, 7, 7, 77))
+		all = append(all, fill)
 	}
-	return all[:len(c)], all
+	return all[:len(list)], all
 }
 
-// spoil writes over all of a list's memory, its spare room included.
-func spoil(c []impl.Item) {
-	c = c[:cap(c)]
-	for i := range c {
-		c[i] = item(-99, -9, -9, -99)
+// spoilWith writes over all of a list's memory, its spare room included.
+func spoilWith[T any](list []T, fill T) {
+	list = list[:cap(list)]
+	for i := range list {
+		list[i] = fill
 	}
+}
+
+func guarded(c []impl.Item) ([]impl.Item, []impl.Item) {
+	return guard(c, item(77, 7, 7, 77))
+}
+
+func spoil(c []impl.Item) {
+	spoilWith(c, item(-99, -9, -9, -99))
 }
 
 func wantSame(t *testing.T, what string, got, want []impl.Item) {
